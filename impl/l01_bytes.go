@@ -51,6 +51,18 @@ func GetNum(b []byte, at int) (int, int, bool) {
 	return 0, 0, false
 }
 
+// getNums reads one number behind the other into all the places that it is
+// handed. What it has read ahead of one that is none counts for nothing.
+func getNums(b []byte, at int, into ...*int) (int, bool) {
+	for _, n := range into {
+		ok := false
+		if *n, at, ok = GetNum(b, at); !ok {
+			return 0, false
+		}
+	}
+	return at, true
+}
+
 func PutText(b []byte, s string) []byte {
 	return append(putNums(b, len(s)), s...)
 }
